@@ -11,28 +11,43 @@ type diagram struct {
 	others []int  // for each visit of a crossing, the other visit
 }
 
+// condition is a part of what makes a code valid, and the error of a code that lacks it.
+type condition struct {
+	holds   func() bool
+	lacking api.Errno
+}
+
 // draw returns the map of a code, or what is wrong with the code.
 func draw(c api.Code) (*diagram, api.Errno) {
-	if len(c.Letters) > api.MaxLetters || count(c, api.Cross) > 2*api.MaxCrossings {
-		return nil, api.ErrLong
-	}
-	if c.Fingers < 0 || c.Fingers > api.MaxFingers {
-		return nil, api.ErrArg
-	}
 	d := &diagram{Code: c}
-	if len(c.Letters) == 0 {
-		return d, api.OK
-	}
 	// Each condition relies on those before it, and adds its part to the map.
-	for _, holds := range []func() bool{d.closed, d.plain, d.ordered, d.paired, d.flat} {
-		if !holds() {
-			return nil, api.ErrCode
+	for _, next := range []condition{
+		{d.short, api.ErrLong},
+		{d.fingered, api.ErrArg},
+		{d.closed, api.ErrCode},
+		{d.plain, api.ErrCode},
+		{d.ordered, api.ErrCode},
+		{d.paired, api.ErrCode},
+		{d.flat, api.ErrCode},
+	} {
+		if !next.holds() {
+			return nil, next.lacking
 		}
 	}
 	return d, api.OK
 }
 
-// closed reports whether the code begins with a pass, and as many passes go down as up. It notes on which side of the axis each edge lies.
+// short reports whether a code keeps to the limits of letters and crossings.
+func (d *diagram) short() bool {
+	return len(d.Letters) <= api.MaxLetters && count(d.Code, api.Cross) <= 2*api.MaxCrossings
+}
+
+// fingered reports whether a code has a possible number of fingers.
+func (d *diagram) fingered() bool {
+	return d.Fingers >= 0 && d.Fingers <= api.MaxFingers
+}
+
+// closed reports whether the code is the bare loop, or begins with a pass and has as many passes that go down as up. It notes on which side of the axis each edge lies.
 func (d *diagram) closed() bool {
 	d.above = make([]bool, len(d.Letters))
 	above := true
@@ -42,7 +57,7 @@ func (d *diagram) closed() bool {
 		}
 		d.above[i] = above
 	}
-	return d.Letters[0].Kind == api.Pass && above
+	return len(d.Letters) == 0 || d.Letters[0].Kind == api.Pass && above
 }
 
 // plain reports whether each letter is a pass or a cross, with numbers in their ranges, and has zero values in the fields that its kind does not use.
@@ -110,9 +125,9 @@ func (d *diagram) paired() bool {
 	return true
 }
 
-// flat reports whether the diagram can be drawn in the plane.
+// flat reports whether the diagram can be drawn in the plane, as the bare loop can, which has no map.
 func (d *diagram) flat() bool {
-	return len(d.walks()) == len(d.axis)+Crossings(d.Code)+2
+	return len(d.Letters) == 0 || len(d.walks()) == len(d.axis)+Crossings(d.Code)+2
 }
 
 // walks returns the darts of each face in the order of a walk that begins with its least dart; the faces are in the order of these.
